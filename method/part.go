@@ -48,9 +48,11 @@ func sameAs(m part) func(part) bool {
 }
 
 // signature is a text that two methods have in common just if they are Same, and two constructors likewise; a method and a constructor never have.
-func signature(x part) string {
+func signature(x part) string { return string(addSignature(nil, x)) }
+
+// addSignature puts the signature of x behind l.
+func addSignature(l []byte, x part) []byte {
 	m := written(x)
-	var l []byte
 	if isCtor(x) {
 		l = append(l, "new "...)
 	}
@@ -58,7 +60,7 @@ func signature(x part) string {
 	for _, q := range m.Params {
 		l = addText(l, q.Type)
 	}
-	return string(l)
+	return l
 }
 
 // addText puts s behind l with its length ahead, for a text may have any byte.
